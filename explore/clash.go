@@ -4,8 +4,9 @@ import "shutter/api"
 
 // Clash tells whether it matters which of two accesses comes first.
 func Clash(a, b api.Access) bool {
-	if a.Kind == api.Alloc && b.Kind == api.Alloc {
-		return true
+	if a.Kind == api.Alloc || b.Kind == api.Alloc {
+		// An Alloc is of no one cell: that which it hands out is nobody else's till then.
+		return a.Kind == b.Kind
 	}
 	return a.Addr == b.Addr && (writes(a) || writes(b))
 }

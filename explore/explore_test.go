@@ -259,7 +259,9 @@ func TestClash(t *testing.T) {
 			_, one := writes[a]
 			_, two := writes[b]
 			both := a == alloc && b == alloc
-			if got := explore.Clash(access(a, 5), access(b, 5)); got != (one || two || both) {
+			// An Alloc is of no one cell.
+			cell := a != alloc && b != alloc
+			if got := explore.Clash(access(a, 5), access(b, 5)); got != (cell && (one || two) || both) {
 				t.Errorf("%d and %d of one cell: %t", a, b, got)
 			}
 			if got := explore.Clash(access(a, 5), access(b, 6)); got != both {
@@ -270,15 +272,41 @@ func TestClash(t *testing.T) {
 	if explore.Clash(api.Access{}, api.Access{}) {
 		t.Error("nothing clashes with nothing")
 	}
-	a := api.Access{Kind: api.Alloc}
-	if !explore.Clash(a, api.Access{Kind: api.Alloc, Addr: 9}) {
-		t.Error("an Alloc that had no room clashes, too")
-	}
 	mixed := access(load, 5)
 	mixed.Ok = true
 	if explore.Clash(mixed, mixed) {
 		t.Error("a Load writes nothing")
 	}
+}
+
+// P20.2: an Alloc clashes with each other one, and with nothing else, whatever it hands out, or if it had no room.
+func TestAllocClash(t *testing.T) {
+	allocs := []api.Access{
+		{Kind: api.Alloc},
+		{Kind: api.Alloc, Values: []uint64{1, 2}},
+		{Kind: api.Alloc, Addr: 2},
+		{Kind: api.Alloc, Addr: 2, Values: []uint64{5, 6}},
+		{Kind: api.Alloc, Addr: 9, Values: []uint64{7}, Ok: true},
+	}
+	both := func(a, b api.Access, want bool) {
+		t.Helper()
+		if explore.Clash(a, b) != want || explore.Clash(b, a) != want {
+			t.Errorf("%+v and %+v clash: %t", a, b, !want)
+		}
+	}
+	for _, a := range allocs {
+		for _, b := range allocs {
+			both(a, b, true)
+		}
+		for addr := range uint64(11) {
+			both(a, api.Access{Kind: api.Load, Addr: addr, Got: 5}, false)
+			both(a, api.Access{Kind: api.Store, Addr: addr, A: 9}, false)
+			both(a, api.Access{Kind: api.Add, Addr: addr, A: 1, Got: 5}, false)
+			both(a, api.Access{Kind: api.Cas, Addr: addr, A: 5, B: 7, Ok: true}, false)
+			both(a, api.Access{Kind: api.Cas, Addr: addr, A: 5, B: 7}, false)
+		}
+	}
+	both(api.Access{Kind: api.Store}, api.Access{Kind: api.Load}, true)
 }
 
 // P20.2: Outcome, by what the Dids are.

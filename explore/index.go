@@ -10,7 +10,7 @@ import (
 type markKind int
 
 const (
-	ofCell   markKind = iota // an access of the cell
+	ofCell   markKind = iota // an access of the cell, which is no Alloc
 	ofAlloc                  // an Alloc
 	ofThread                 // a step of the thread
 	naming                   // a call begins that names one of the thread
@@ -51,25 +51,27 @@ func (x index) near(m move) iter.Seq[int] {
 	}
 }
 
-// accessMarks ranges over the marks that a move's access has; such as have one of them in common may clash.
-func (m move) accessMarks(yield func(mark) bool) bool {
-	if !m.makesAccess() {
+// accessMark ranges over the mark that a move's access has, if it makes one; such as have it in common may clash.
+func (m move) accessMark(yield func(mark) bool) bool {
+	switch m.access.Kind {
+	case 0:
 		return true
+	case api.Alloc:
+		return yield(mark{kind: ofAlloc})
 	}
-	return yield(mark{ofCell, m.access.Addr}) &&
-		(m.access.Kind != api.Alloc || yield(mark{kind: ofAlloc}))
+	return yield(mark{ofCell, m.access.Addr})
 }
 
 // marks ranges over the marks that a move has.
 func (m move) marks(yield func(mark) bool) {
-	if m.accessMarks(yield) && yield(mark{ofThread, uint64(m.thread)}) && m.ref.Set {
+	if m.accessMark(yield) && yield(mark{ofThread, uint64(m.thread)}) && m.ref.Set {
 		yield(mark{naming, uint64(m.ref.Thread)})
 	}
 }
 
 // looksFor ranges over the marks of moves that may clash with this one.
 func (m move) looksFor(yield func(mark) bool) {
-	if m.accessMarks(yield) && yield(mark{naming, uint64(m.thread)}) && m.ref.Set {
+	if m.accessMark(yield) && yield(mark{naming, uint64(m.thread)}) && m.ref.Set {
 		yield(mark{ofThread, uint64(m.ref.Thread)})
 	}
 }

@@ -133,7 +133,8 @@ func clash(a, b spokenStep) bool {
 	writes := func(x *api.Access) bool {
 		return x.Kind == api.Store || x.Kind == api.Add || x.Kind == api.Cas && x.Ok
 	}
-	return a.access.Addr == b.access.Addr && (writes(a.access) || writes(b.access)) ||
+	ofOneCell := a.access.Kind != api.Alloc && b.access.Kind != api.Alloc && a.access.Addr == b.access.Addr
+	return ofOneCell && (writes(a.access) || writes(b.access)) ||
 		a.access.Kind == api.Alloc && b.access.Kind == api.Alloc
 }
 
