@@ -3,10 +3,10 @@ package live
 import (
 	"cmp"
 	"slices"
-	"sync"
 	"sync/atomic"
 
 	"shutter/api"
+	"shutter/crew"
 	"shutter/store"
 )
 
@@ -71,34 +71,17 @@ func (r *free) handleOf(ref api.Ref) uint64 {
 	return told[ref.Index].Load()
 }
 
-// spawn lets goroutines work, so many of them: who waits for the group waits for all.
-func spawn(count int, work func(i int)) *sync.WaitGroup {
-	group := &sync.WaitGroup{}
-	group.Add(count)
-	for i := range count {
-		go func() {
-			defer group.Done()
-			work(i)
-		}()
-	}
-	return group
-}
-
-// doThreads lets all threads do their operations. None begins till all are there: else the first ones would have ended by then, and nobody would have got between them.
+// doThreads lets all threads do their operations.
 func (r *free) doThreads() {
-	begin := make(chan struct{})
-	all := spawn(len(r.threads), func(i int) {
-		<-begin
+	crew.Together(len(r.threads), func(i int) {
 		r.threads[i].doAll()
 	})
-	close(begin)
-	all.Wait()
 }
 
 // whileOthers lets all threads do their operations, while so many goroutines more do something else till they are told that all threads have ended.
 func (r *free) whileOthers(count int, work func(i int, ended <-chan struct{})) {
 	ended := make(chan struct{})
-	others := spawn(count, func(i int) {
+	others := crew.Begin(count, func(i int) {
 		work(i, ended)
 	})
 	r.doThreads()

@@ -1,6 +1,10 @@
 package live
 
-import "sync"
+import (
+	"sync"
+
+	"shutter/crew"
+)
 
 // round is the operations, one of each thread that has one, that begin together.
 type round struct {
@@ -25,7 +29,7 @@ func (r *free) rounds() []*round {
 // doRounds lets all threads do their operations, round by round.
 func (r *free) doRounds() {
 	rounds := r.rounds()
-	all := spawn(len(r.threads), func(i int) {
+	all := crew.Begin(len(r.threads), func(i int) {
 		r.threads[i].doByRounds(rounds)
 	})
 	for _, now := range rounds {
