@@ -34,6 +34,15 @@ func (c content) between(lo, hi uint64) []api.Pair {
 	return pairs
 }
 
+// picture is the same by itself: what becomes of the one changes nothing of the other.
+func (c content) picture() content {
+	p := make(content, len(c))
+	for key, value := range c {
+		p[key] = value
+	}
+	return p
+}
+
 // all are all keys, with their values, by rising keys.
 func (c content) all() []api.Pair {
 	return c.between(0, math.MaxUint64)
